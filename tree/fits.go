@@ -8,8 +8,8 @@ import (
 // maxInt is the greatest INT.
 const maxInt = 1<<31 - 1
 
-// fits tells whether a node has the N and the fields of its Op, and no others.
-func fits(n api.Node) bool { return fitsN(n) && fitsInterval(n) && fitsAtom(n) }
+// Fits tells whether a node has the N and the fields of its Op, and no others.
+func Fits(n api.Node) bool { return fitsN(n) && fitsInterval(n) && fitsAtom(n) }
 
 func fitsN(n api.Node) bool {
 	switch n.Op {

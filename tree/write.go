@@ -104,11 +104,11 @@ func rankOf(op int) int {
 // formula writes a tree where one of a rank or of a higher one is asked for.
 func (w *writer) formula(n []api.Node, rank int) {
 	if rankOf(n[0].Op) >= rank {
-		w.part(n[0], split(n)...)
+		w.part(n[0], Split(n)...)
 		return
 	}
 	w.put("(")
-	w.part(n[0], split(n)...)
+	w.part(n[0], Split(n)...)
 	w.put(")")
 }
 
